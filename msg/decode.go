@@ -79,7 +79,7 @@ func (p parts) version(m *api.Msg) {
 	m.To = p.net()
 	m.From = p.net()
 	m.Nonce = p.U64()
-	m.Agent = p.String(api.MaxAgent)
+	m.Agent = p.text(api.MaxAgent)
 	m.Height = p.U32()
 	m.Relay = p.Bool()
 }
@@ -135,7 +135,10 @@ func (p parts) short() uint64 {
 }
 
 // raw takes the bytes of a transaction.
-func (p parts) raw() string { return p.String(api.MaxTx) }
+func (p parts) raw() string { return p.text(api.MaxTx) }
+
+// text takes a count of at most most, and so many bytes: two parts, so that the count stays taken where the bytes are cut; a reader's String gives it back.
+func (p parts) text(most uint64) string { return p.Bytes(int(p.Count(most))) }
 
 // place takes the place that comes behind the one ahead.
 func (p parts) place(ahead int) int {

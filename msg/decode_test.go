@@ -34,13 +34,14 @@ func TestDecodeFirst(t *testing.T) {
 	}
 }
 
-// begins is a payload of each kind, and where its parts begin.
+// begins is a payload of each kind but those that are all one text, and where its parts begin; a count and the bytes of a text behind it are two of them.
 var begins = []struct {
 	kind    int
 	payload string
 	parts   []int
 }{
-	{1, strings.Repeat("\x00", 80) + "\x05agent" + "\x01\x00\x00\x00\x01", []int{0, 4, 12, 20, 28, 44, 46, 54, 70, 72, 80, 86, 90}},
+	{1, strings.Repeat("\x00", 80) + "\x05agent" + "\x01\x00\x00\x00\x01", []int{0, 4, 12, 20, 28, 44, 46, 54, 70, 72, 80, 81, 86, 90}},
+	{1, strings.Repeat("\x00", 80) + "\x40" + strings.Repeat("a", 64) + "\x01\x00\x00\x00\x01", []int{0, 4, 12, 20, 28, 44, 46, 54, 70, 72, 80, 81, 145, 149}},
 	{1, strings.Repeat("\x00", 86), []int{0, 4, 12, 20, 28, 44, 46, 54, 70, 72, 80, 81, 85}},
 	{2, "", nil}, {3, "", nil}, {4, "", nil},
 	{5, "12345678", []int{0}}, {6, "12345678", []int{0}},
@@ -53,10 +54,12 @@ var begins = []struct {
 	{11, "vers\x00" + strings.Repeat("h", 32), []int{0, 4, 5}},
 	{12, "\x02" + head + "\x00" + head + "\x00", []int{0, 1, 81, 82, 162}},
 	{15, "\x0112345678", []int{0, 1}},
-	{16, head + "12345678\x02shortsshorts\x03\x00\x02ab\xfd\x00\x01\x00\x01\x01z", []int{0, 80, 88, 89, 95, 101, 102, 103, 106, 109, 110, 111}},
+	{16, head + "12345678\x02shortsshorts\x03\x00\x02ab\xfd\x00\x01\x00\x01\x01z", []int{0, 80, 88, 89, 95, 101, 102, 103, 104, 106, 109, 110, 111, 112}},
+	{16, head + "12345678\x00\x02\x05\xfd\x00\x10" + strings.Repeat("r", 4096) + "\xfd\xf8\xff\xfd\xfd\x00" + strings.Repeat("r", 253), []int{0, 80, 88, 89, 90, 91, 94, 4190, 4193, 4196}},
 	{16, head + "12345678\xfd\xfd\x00" + strings.Repeat("shorts", 253) + "\x00", append(append([]int{0, 80, 88}, steps(91, 6, 253)...), 91+253*6)},
 	{17, zeros + "\x03\x00\xfd\x00\x01\x05", []int{0, 32, 33, 34, 37}},
-	{18, zeros + "\x03\x02ab\x00\xfd\x00\x01" + strings.Repeat("r", 256), []int{0, 32, 33, 36, 37}},
+	{18, zeros + "\x03\x02ab\x00\xfd\x00\x01" + strings.Repeat("r", 256), []int{0, 32, 33, 34, 36, 37, 40}},
+	{18, zeros + "\x03\xfd\x00\x10" + strings.Repeat("r", 4096) + "\xfc" + strings.Repeat("r", 252) + "\x00", []int{0, 32, 33, 36, 4132, 4133, 4385}},
 }
 
 // steps is n places that are so far apart, from the first on.
@@ -251,17 +254,55 @@ func TestDecodeOrder(t *testing.T) {
 	faults(t, 16, head+"12345678\xfd\xf5\x01\xfd\xf5\x01", 88, api.ErrMore)
 	faults(t, 16, head+"12345678\x00\x01\xfe\x00\x00\x01\x00\xfd\x01\x10", 90, api.ErrMore)
 	faults(t, 18, zeros+"\x02\xfd\x01\x10\xfd\x00\x00", 33, api.ErrMore)
-	faults(t, 18, zeros+"\x02\x03ab", 33, api.ErrCut)
+	faults(t, 18, zeros+"\x02\x03ab", 34, api.ErrCut)
 }
 
-// Promise 9.3: a text that is cut is told with the place of its count, of which a reader takes nothing without it.
+// texts is each place where a text with a count ahead of it stands: what is ahead of the count, and how many bytes the text may have.
+var texts = []struct {
+	kind  int
+	ahead string
+	most  int
+}{
+	{1, strings.Repeat("\x00", 80), 64},
+	{16, head + "12345678\x00\x01\x00", 4096},
+	{16, head + "12345678\x01shorts\x03\x09\x02ab\x00", 4096},
+	{18, zeros + "\x01", 4096},
+	{18, zeros + "\x02\x01x", 4096},
+	{18, zeros + "\x03\x00\xfd\xfd\x00" + strings.Repeat("r", 253), 4096},
+}
+
+// Promise 9.3: a text that is cut, by one byte up to all of it, is told with the place behind its count; a count that is cut, with its own.
 func TestDecodeTextsCut(t *testing.T) {
-	for _, s := range []string{"\x01", "\x40" + strings.Repeat("a", 63)} {
-		faults(t, 1, strings.Repeat("\x00", 80)+s, 80, api.ErrCut)
+	for _, x := range texts {
+		for _, n := range []int{1, 2, 63, 64, 252, 253, 254, 4095, 4096} {
+			if n > x.most {
+				continue
+			}
+			c := count(uint64(n))
+			for end := range len(c) {
+				faults(t, x.kind, x.ahead+c[:end], len(x.ahead), api.ErrCut)
+			}
+			for _, has := range []int{0, 1, n / 2, n - 1} {
+				if has < n {
+					faults(t, x.kind, x.ahead+c+strings.Repeat("\xff", has), len(x.ahead)+len(c), api.ErrCut)
+				}
+			}
+		}
+		for _, n := range []int{x.most + 1, x.most + 2, 65535} {
+			faults(t, x.kind, x.ahead+count(uint64(n)), len(x.ahead), api.ErrMore)
+		}
 	}
-	for _, s := range []string{"\x01", "\xfd\xfd\x00", "\xfd\x00\x10" + strings.Repeat("r", 4095)} {
-		faults(t, 16, head+"12345678\x00\x01\x00"+s, 91, api.ErrCut)
-		faults(t, 18, zeros+"\x01"+s, 33, api.ErrCut)
+}
+
+// Promise 9.3: every beginning of a transaction's and of a block's payload is one, too: it is all one text, without a count.
+func TestDecodeWhole(t *testing.T) {
+	s := "\xfd\xff\xff\x05ab" + strings.Repeat("\x00\xff", 40)
+	for _, kind := range []int{13, 14} {
+		for n := range len(s) + 1 {
+			if m, at, e := decodes(t, kind, s[:n]); m.Raw != s[:n] || at != 0 || e != api.OK {
+				t.Fatalf("%d bytes of a %s: %q %d %d", n, commands[kind], m.Raw, at, e)
+			}
+		}
 	}
 }
 

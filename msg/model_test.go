@@ -244,15 +244,8 @@ func (w *walk) upTo(most uint64) int {
 	}))
 }
 
-// text is a count of at most that many, and so many bytes: to a reader one part, which is not taken where it is cut.
-func (w *walk) text(most uint64) string {
-	start := w.at
-	n := w.upTo(most)
-	if n > len(w.s)-w.at {
-		panic(fault{start, api.ErrCut})
-	}
-	return w.bytes(n)
-}
+// text is a count of at most that many, a part, and so many bytes, the next one.
+func (w *walk) text(most uint64) string { return w.bytes(w.upTo(most)) }
 
 // yes is a byte that is 0 or 1.
 func (w *walk) yes() bool {
